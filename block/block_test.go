@@ -118,22 +118,23 @@ func chapterError(l []api.Entry) api.Errno {
 	return api.OK
 }
 
-// chapterAll holds a block against each restart interval, without building one.
-func chapterAll(b []byte) ([]api.Entry, []int, api.Errno) {
+// chapterAll holds a block against each restart interval, without building one; it
+// tells the smallest that fits.
+func chapterAll(b []byte) ([]api.Entry, []int, int, api.Errno) {
 	if len(b) < 8 {
-		return nil, nil, api.ErrShort
+		return nil, nil, 0, api.ErrShort
 	}
 	body := b[:len(b)-4]
 	if !bytes.Equal(summed(body), b) {
-		return nil, nil, api.ErrSum
+		return nil, nil, 0, api.ErrSum
 	}
 	// Each entry but a first one has at least 4 bytes: greater intervals make no difference.
 	for every := 1; every <= min(100, 2+len(body)/4); every++ {
 		if l, restarts, ok := chapterRead(body, every); ok {
-			return l, restarts, api.OK
+			return l, restarts, every, api.OK
 		}
 	}
-	return nil, nil, api.ErrSyntax
+	return nil, nil, 0, api.ErrSyntax
 }
 
 func chapterRead(body []byte, every int) ([]api.Entry, []int, bool) {
@@ -182,12 +183,12 @@ func chapterRead(body []byte, every int) ([]api.Entry, []int, bool) {
 func hold(t *testing.T, b []byte, keys ...api.IKey) api.Errno {
 	t.Helper()
 	kept := bytes.Clone(b)
-	want, points, errno := chapterAll(b)
-	if errno != api.OK {
-		want, points = nil, nil
-	}
+	want, points, every, errno := chapterAll(b)
 	if got, e := All(b); e != errno || !same(got, want) {
 		t.Fatalf("All of %x: %v, %d, want %v, %d", b, got, e, want, errno)
+	}
+	if got, n, e := Open(b); e != errno || n != every || !same(got, want) {
+		t.Fatalf("Open of %x: %v, %d, %d, want %v, %d, %d", b, got, n, e, want, every, errno)
 	}
 	if got, e := Restarts(b); e != errno || !slices.Equal(got, points) {
 		t.Fatalf("Restarts of %x: %v, %d, want %v, %d", b, got, e, points, errno)
@@ -213,6 +214,9 @@ func build(t *testing.T, l []api.Entry, every int) []byte {
 	b, e := Build(l, every)
 	if want, _ := chapterBuild(l, every); e != api.OK || !bytes.Equal(b, want) {
 		t.Fatalf("Build of %d by %d: %x, %d, want %x", len(l), every, b, e, want)
+	}
+	if e := Check(l); e != api.OK {
+		t.Fatalf("Check of %d: %d", len(l), e)
 	}
 	return b
 }
@@ -311,6 +315,9 @@ func TestP1101Errors(t *testing.T) {
 				t.Errorf("Build of %d by %d: %x, %d, want %d", len(l), every, got, e, want)
 			}
 		}
+		if e := Check(l); e != want {
+			t.Errorf("Check of %d: %d, want %d", len(l), e, want)
+		}
 	}
 	for _, e := range invalid() {
 		refused([]api.Entry{e}, api.ErrArg)
@@ -334,13 +341,13 @@ func TestP1101MostEntries(t *testing.T) {
 	l := rising(10002)
 	for _, every := range []int{1, 3, 100} {
 		b := build(t, l[:10000], every)
-		if got, e := All(b); e != api.OK || !same(got, l[:10000]) {
-			t.Errorf("All of 10000 by %d: %d entries, %d", every, len(got), e)
+		if got, n, e := Open(b); e != api.OK || n != every || !same(got, l[:10000]) {
+			t.Errorf("Open of 10000 by %d: %d entries by %d, %d", every, len(got), n, e)
 		}
 	}
 	for _, n := range []int{10001, 10002} {
-		if b, e := Build(l[:n], 7); e != api.ErrLong || len(b) != 0 {
-			t.Errorf("Build of %d: %d bytes, %d", n, len(b), e)
+		if b, e := Build(l[:n], 7); e != api.ErrLong || len(b) != 0 || Check(l[:n]) != api.ErrLong {
+			t.Errorf("Build of %d: %d bytes, %d, %d", n, len(b), e, Check(l[:n]))
 		}
 		// What would be the encoding of so many is none.
 		b, _ := chapterBuild(l[:n], 7)
@@ -637,6 +644,11 @@ func TestP1103RoundTrip(t *testing.T) {
 			t.Fatalf("All of %d by %d: %d entries, %d", len(l), every, len(got), e)
 		}
 		_, points := chapterBuild(l, every)
+		// Without a second restart point the interval only reaches the end.
+		smallest := max(1, min(len(l), every, 100))
+		if got, n, e := Open(b); e != api.OK || n != smallest || !same(got, l) {
+			t.Fatalf("Open of %d by %d: %d entries by %d, %d, want %d", len(l), every, len(got), n, e, smallest)
+		}
 		if got, e := Restarts(b); e != api.OK || !slices.Equal(got, points) {
 			t.Fatalf("Restarts of %d by %d: %v, %d, want %v", len(l), every, got, e, points)
 		}
