@@ -350,6 +350,39 @@ func TestP1601AFileMayBeAddedAndDropped(t *testing.T) {
 	}
 }
 
+func TestP1601RightRunsTakesAnyNumberOfRuns(t *testing.T) {
+	for _, l := range [][]api.Run{nil, {}, runs(1, 1), runs(1, 100), runs(1, 101), runs(1, 2000), runs(top, 1), runs(top-1999, 2000), validRuns()} {
+		if !RightRuns(l) {
+			t.Errorf("RightRuns of %d runs is false", len(l))
+		}
+	}
+}
+
+func TestP1601RightRunsJudgesAsRight(t *testing.T) {
+	for _, e := range slices.Concat(validEdits(), invalidEdits()) {
+		if len(e.Add) > 100 {
+			continue
+		}
+		if got, want := RightRuns(e.Add), chapterRight(api.Edit{Add: e.Add}); got != want {
+			t.Errorf("RightRuns(%v) = %v", e.Add, got)
+		}
+	}
+	for _, at := range []int{0, 100, 999, 1999} {
+		for _, r := range invalidRuns() {
+			l := runs(1, 2000)
+			l[at] = r
+			if RightRuns(l) {
+				t.Errorf("RightRuns is true with %v at %d", r, at)
+			}
+		}
+		l := runs(1, 2000)
+		l[at].File = 500
+		if RightRuns(l) {
+			t.Errorf("RightRuns is true with a file twice, at %d", at)
+		}
+	}
+}
+
 func TestP1601BytesExamples(t *testing.T) {
 	for _, x := range []struct {
 		e    api.Edit
